@@ -7,15 +7,14 @@ import (
 	"porism/api"
 )
 
-// letters stands in the order of package api, so that a letter's place gives its kind.
+// letters keeps the order of package api, so that one text serves both ways: a letter's place gives its kind.
 const letters = "vucplasofgirj"
 
-// known reports whether there is such a kind.
 func known(kind int) bool {
 	return kind >= api.Var && kind <= api.Jay
 }
 
-// Kids returns the number of Kids of a term of that kind, or -1 if there is no such kind.
+// Kids: see the chapter. What is no kind answers -1, since 0 is the answer for a leaf.
 func Kids(kind int) int {
 	switch kind {
 	case api.Var, api.Univ, api.Const:
@@ -30,23 +29,24 @@ func Kids(kind int) int {
 	return -1
 }
 
-// Binds returns 1 if the Kid with index i is in the scope of one more variable, otherwise 0.
+// Binds: see the chapter. It answers a number, so that it can be added to a count of variables.
 func Binds(kind, i int) int {
+	if i != 1 {
+		return 0
+	}
 	switch kind {
 	case api.Pi, api.Lam, api.Sig:
-		if i == 1 {
-			return 1
-		}
+		return 1
 	}
 	return 0
 }
 
-// Leaf reports whether kind is a kind without Kids.
+// Leaf: see the chapter.
 func Leaf(kind int) bool {
 	return Kids(kind) == 0
 }
 
-// Letter returns the letter of the kind, or 0 if there is no such kind.
+// Letter: see the chapter.
 func Letter(kind int) byte {
 	if !known(kind) {
 		return 0
@@ -54,7 +54,7 @@ func Letter(kind int) byte {
 	return letters[kind-api.Var]
 }
 
-// Of returns the kind with that letter and true, or false if there is none.
+// Of: see the chapter.
 func Of(letter byte) (int, bool) {
 	at := strings.IndexByte(letters, letter)
 	if at < 0 {
@@ -63,8 +63,7 @@ func Of(letter byte) (int, bool) {
 	return api.Var + at, true
 }
 
-// Canon reports whether terms of that kind are canonical: those that eliminate no other term.
-// Var and Const are not, since what they stand for may be anything.
+// Canon: see the chapter. Var and Const are left out, since they may stand for a term of any kind.
 func Canon(kind int) bool {
 	switch kind {
 	case api.Univ, api.Pi, api.Lam, api.Sig, api.Pair, api.Id, api.Refl:
